@@ -44,25 +44,36 @@ func TestP4_5_Terms(t *testing.T) {
 	}
 }
 
-// TestP4_5_TermsTrue: a goal true, and a test true, are left out; one with a priority is not.
+// TestP4_5_TermsTrue: a goal true, and a test true, are left out, also where nothing else is left; one with a priority is not.
 func TestP4_5_TermsTrue(t *testing.T) {
-	for text, c := range map[string]api.Clause{
-		"p(X) :- true":                         clause("X", "", "true"),
-		"p(X) :- true ":                        clause("X", "", "true, true"),
-		"p(X) :- p(X)":                         clause("X", "", "true, p(X)"),
-		"p(X) :- p(X), p(1)":                   clause("X", "", "true, p(X), true, p(1), true"),
-		"p(X) :- true | true":                  clause("X", "true", ""),
-		"p(X) :- true | p(X)":                  clause("X", "true, true", "true, p(X)"),
-		"p(X) :- X > 0 | true":                 clause("X", "true, X > 0", "true"),
-		"p(X) :- wait(X), X > 0 | p(X), p(2)":  clause("X", "wait(X), true, X > 0", "p(X), p(2), true"),
-		"p(X) :- true @ 3":                     clause("X", "", "true @ 3"),
-		"p(X) :- true | true @ 0, p(X) @ 0":    clause("X", "true", "true, true @ 0, p(X) @ 0"),
-		"p(true) :- wait(true) | true = true ": clause("true", "wait(true)", "true = true"),
+	for _, c := range []struct {
+		of   api.Clause
+		text string
+	}{
+		{clause("X", "", "true"), "p(X)"},
+		{clause("X", "", "true, true"), "p(X)"},
+		{clause("X", "", "true, p(X)"), "p(X) :- p(X)"},
+		{clause("X", "", "true, p(X), true, p(1), true"), "p(X) :- p(X), p(1)"},
+		{clause("X", "true", ""), "p(X)"},
+		{clause("X", "true, true", "true"), "p(X)"},
+		{clause("X", "true", "p(X)"), "p(X) :- p(X)"},
+		{clause("X", "true, true", "true, p(X)"), "p(X) :- p(X)"},
+		{clause("X", "X > 0", ""), "p(X) :- X > 0 | true"},
+		{clause("X", "true, X > 0", "true"), "p(X) :- X > 0 | true"},
+		{clause("X", "wait(X), true, X > 0", "p(X), p(2), true"), "p(X) :- wait(X), X > 0 | p(X), p(2)"},
+		{clause("X", "", "true @ 3"), "p(X) :- true @ 3"},
+		{clause("X", "true", "true, true @ 0, p(X) @ 0"), "p(X) :- true @ 0, p(X) @ 0"},
+		{clause("true", "wait(true)", "true = true"), "p(true) :- wait(true) | true = true"},
+		{clause("true", "true", "true"), "p(true)"},
 	} {
-		p := procs(proc("p", 1, c))
+		p := procs(proc("p", 1, c.of))
 		check(t, p)
 		got, e := prog.Terms(p)
-		wantTerms(t, text, got, e, of(":- p / 1"), of(text))
+		wantTerms(t, c.text, got, e, of(":- p / 1"), of(c.text))
+	}
+	for text, c := range map[string]api.Clause{"p": clause("", "true", "true"), "p :- p": clause("", "true", "p, true")} {
+		got, e := prog.Terms(procs(proc("p", 0, marked(api.MarkLate, c))))
+		wantTerms(t, text, got, e, of(":- p / 0"), of("alternatively"), of(text))
 	}
 }
 

@@ -67,6 +67,17 @@ func TestP4_7_ReadBack(t *testing.T) {
 	}
 }
 
+// TestP4_5_TermsAsWithoutTrue: a program is written as it is without true.
+func TestP4_5_TermsAsWithoutTrue(t *testing.T) {
+	for _, p := range programs(true) {
+		got, e := prog.Terms(p)
+		wanted, _ := prog.Terms(withoutTrue(p))
+		if e != api.OK || !equalAll(got, wanted) {
+			t.Errorf("%v is written as %v, error %d, want %v", p, got, e, wanted)
+		}
+	}
+}
+
 // joinGoals joins goals by commas, in any way.
 func joinGoals(r *rand.Rand, l []api.Term) api.Term {
 	switch len(l) {

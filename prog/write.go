@@ -39,15 +39,15 @@ func appendMark(out []api.Term, mark int) []api.Term {
 	return out
 }
 
-// clauseTerm returns the term of a clause, made of the clause's own memory.
+// clauseTerm returns the term of a clause, made of the clause's own memory. A guard, or a body, of nothing but true is written as an empty one.
 func clauseTerm(name string, c api.Clause) api.Term {
 	head := structure(name, c.Head...)
-	behind := goalsTerm(withoutTrue(c.Body))
+	guard, body := withoutTrue(c.Guard), withoutTrue(c.Body)
 	switch {
-	case len(c.Guard) > 0:
-		return structure(":-", head, structure("|", goalsTerm(withoutTrue(c.Guard)), behind))
-	case len(c.Body) > 0:
-		return structure(":-", head, behind)
+	case len(guard) > 0:
+		return structure(":-", head, structure("|", goalsTerm(guard), goalsTerm(body)))
+	case len(body) > 0:
+		return structure(":-", head, goalsTerm(body))
 	}
 	return head
 }
