@@ -62,8 +62,9 @@ func (j joint) isModule(m api.Module) bool {
 }
 
 // isImport reports whether a module can import something, if it has nothing else with this symbol.
+// The name of Own need not be one: what no term has, no goal calls, so such an import changes nothing.
 func (j joint) isImport(m api.Module, x api.Import) bool {
-	return x.Module != m.Name && j.exports[exported{x.Module, x.From}] && x.Own.Arity == x.From.Arity && isName(x.Own.Name) && !j.reserved(x.Own)
+	return x.Module != m.Name && j.exports[exported{x.Module, x.From}] && x.Own.Arity == x.From.Arity && !j.reserved(x.Own)
 }
 
 // joinedSymbol returns the symbol that a procedure of a module has in the joined program.

@@ -102,7 +102,6 @@ func TestP4_6_JoinWrong(t *testing.T) {
 		"imports twice":             changed(func(m, n *api.Module) { m.Imports = imports("q/0=n:r/0 q/0=n:r/0") }),
 		"imports what it has":       changed(func(m, n *api.Module) { m.Imports = imports("q/0=n:r/0 p/0=n:r/0") }),
 		"imports by a reserved one": changed(func(m, n *api.Module) { m.Imports = imports("q/0=n:r/0 true/0=n:r/0") }),
-		"imports by no name":        changed(func(m, n *api.Module) { m.Imports[0].Own.Name, m.P = "", api.Program{} }),
 		"no such module":            changed(func(m, n *api.Module) { m.Imports[0].Module = "o" }),
 		"no module":                 changed(func(m, n *api.Module) { m.Imports[0].Module = "" }),
 		"imports what is not there": changed(func(m, n *api.Module) { m.Imports[0].From.Name = "s" }),
@@ -162,10 +161,80 @@ func TestP4_6_JoinLimits(t *testing.T) {
 	wantNoProgram(t, "65 procedures", got, e, api.ErrLimit)
 	got, e = prog.Join([]api.Module{module("m", nil, nil, many(64)), module("n", nil, nil, many(64))})
 	wantNoProgram(t, "128 procedures", got, e, api.ErrLimit)
-	// An import can have any name that a procedure can have.
+	// An import that is called can have any name that a procedure can have.
 	l := two()
 	l[0].Imports[0].Own.Name = strings.Repeat("q", 32)
 	l[0].P = procs(proc("p", 0, clause("", "", strings.Repeat("q", 32))))
 	got, e = prog.Join(l)
 	wantProgram(t, "an import of 32 bytes", got, e, procs(proc("m:p", 0, clause("", "", "'n:r'")), proc("n:r", 0)))
+}
+
+// noNames are strings that are no names.
+func noNames() []string {
+	return []string{"", "\x00", "q\n", "\x1f", "\x7f", "\xff", strings.Repeat("q", 33), strings.Repeat("q", 100000)}
+}
+
+// three are modules of which the first one imports r/0 of the second one by a name, which no goal calls.
+func three(own string) []api.Module {
+	return []api.Module{
+		module("m", symbols("p/0"), []api.Import{{Own: symbol(own, 0), Module: "n", From: symbol("r", 0)}}, procs(proc("p", 0, clause("", "", "p")))),
+		module("n", symbols("r/0 s/1"), nil, procs(proc("r", 0), proc("s", 1), proc("t", 0))),
+		module("o", symbols("r/0"), imports("q/1=n:s/1"), procs(proc("r", 0), proc("p", 0, clause("", "", "q(r)")))),
+	}
+}
+
+// TestP4_6_JoinOwn: that by which a module imports something need not be a name; without a goal that calls it, it changes nothing.
+func TestP4_6_JoinOwn(t *testing.T) {
+	joined := procs(proc("m:p", 0, clause("", "", "'m:p'")), proc("n:r", 0), proc("n:s", 1), proc("n:t", 0), proc("o:r", 0), proc("o:p", 0, clause("", "", "'n:s'(r)")))
+	all := three("q")
+	for _, name := range append(noNames(), "q", strings.Repeat("q", 32), "q:", " ", "~") {
+		got, e := prog.Join(three(name))
+		wantProgram(t, "alone", got, e, joined)
+		l := three(name)
+		l[0].Imports = append(l[0].Imports, api.Import{Own: symbol(name, 1), Module: "n", From: symbol("s", 1)})
+		got, e = prog.Join(l)
+		wantProgram(t, "with two arities", got, e, joined)
+		l = three("q")
+		l[2].Imports = append(l[2].Imports, three(name)[0].Imports...)
+		got, e = prog.Join(l)
+		wantProgram(t, "behind one that is called", got, e, joined)
+		if name != "q" {
+			all[0].Imports = append(all[0].Imports, three(name)[0].Imports...)
+		}
+	}
+	got, e := prog.Join(all)
+	wantProgram(t, "all", got, e, joined)
+}
+
+// TestP4_6_JoinOwnWrong: all else that is asked of an import is asked of one by what is no name, too.
+func TestP4_6_JoinOwnWrong(t *testing.T) {
+	for _, name := range noNames() {
+		own := symbol(name, 0)
+		for what, change := range map[string]func(m *api.Module){
+			"twice": func(m *api.Module) { m.Imports = append(m.Imports, m.Imports[0]) },
+			"twice, from two": func(m *api.Module) {
+				m.Imports = append(m.Imports, api.Import{Own: own, Module: "o", From: symbol("r", 0)})
+			},
+			"arity of own":  func(m *api.Module) { m.Imports[0].Own.Arity = 1 },
+			"arity of from": func(m *api.Module) { m.Imports[0].From = symbol("s", 1) },
+			"no export":     func(m *api.Module) { m.Imports[0].From.Name = "t" },
+			"no module":     func(m *api.Module) { m.Imports[0].Module = "k" },
+			"itself": func(m *api.Module) {
+				m.Imports[0].Module, m.Imports[0].From = "m", symbol("p", 0)
+			},
+			"is called": func(m *api.Module) { m.P = procs(proc("p", 0, api.Clause{Body: []api.Term{atom(name)}})) },
+			"is called with a priority": func(m *api.Module) {
+				m.P = procs(proc("p", 0, api.Clause{Body: []api.Term{fun("@", atom(name), integer(1))}}))
+			},
+			"is a procedure": func(m *api.Module) { m.P.Procs = append(m.P.Procs, proc(name, 0)) },
+		} {
+			l := three(name)
+			change(&l[0])
+			got, e := prog.Join(l)
+			wantNoProgram(t, what, got, e, api.ErrModule)
+			slices.Reverse(l)
+			got, e = prog.Join(l)
+			wantNoProgram(t, what+", turned", got, e, api.ErrModule)
+		}
+	}
 }

@@ -4,6 +4,7 @@ import (
 	"cmp"
 	"math/rand"
 	"slices"
+	"strings"
 	"testing"
 
 	"riparian/api"
@@ -355,6 +356,11 @@ func madeModules(r *rand.Rand) []api.Module {
 					own := symbol("i"+from.Name+string(rune('a'+k)), s.Arity)
 					out[i].Imports = append(out[i].Imports, api.Import{Own: own, Module: from.Name, From: s})
 					callable = append(callable, own)
+				}
+				// No goal calls what has no name.
+				if from.Name != out[i].Name && r.Intn(8) == 0 {
+					own := symbol(strings.Repeat("\x00", len(out[i].Imports)), s.Arity)
+					out[i].Imports = append(out[i].Imports, api.Import{Own: own, Module: from.Name, From: s})
 				}
 			}
 		}
